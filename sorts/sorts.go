@@ -5,51 +5,29 @@ import (
 	"slices"
 
 	"virgation/api"
+	"virgation/nest"
 )
 
 // Check returns ErrSort if s is not a valid sort, otherwise OK.
 func Check(s api.Sort) api.Errno {
 	nodes, depth := Size(s)
-	if nodes > api.MaxSort || depth > api.MaxDeep || !everywhere(s, fewArgs) {
+	if nodes > api.MaxSort || depth > api.MaxDeep || !nest.All(s, parts, fewArgs) {
 		return api.ErrSort
 	}
 	return api.OK
 }
 
-func fewArgs(x api.Sort, level int) bool {
-	return len(x.Args) <= api.MaxArgs
+func parts(s api.Sort) []api.Sort {
+	return s.Args
+}
+
+func fewArgs(s api.Sort) bool {
+	return len(s.Args) <= api.MaxArgs
 }
 
 // Size returns the nodes and the depth of s, or MaxSort + 1 and 0 if it has more than MaxSort nodes.
 func Size(s api.Sort) (nodes, depth int) {
-	// The visit ends at the first node too many: a sort whose parts are shared may have more nodes than can be counted.
-	small := everywhere(s, func(x api.Sort, level int) bool {
-		nodes++
-		depth = max(depth, level)
-		return nodes <= api.MaxSort
-	})
-	if !small {
-		return api.MaxSort + 1, 0
-	}
-	return nodes, depth
-}
-
-// everywhere reports whether s and all sorts in it have a property, which is told their levels, too (that of s is 1).
-// It visits a sort ahead of its arguments, and nothing more once the property fails.
-func everywhere(s api.Sort, has func(x api.Sort, level int) bool) bool {
-	return everywhereFrom(s, 1, has)
-}
-
-func everywhereFrom(s api.Sort, level int, has func(x api.Sort, level int) bool) bool {
-	if !has(s, level) {
-		return false
-	}
-	for _, x := range s.Args {
-		if !everywhereFrom(x, level+1, has) {
-			return false
-		}
-	}
-	return true
+	return nest.Size(s, parts, api.MaxSort)
 }
 
 // Same reports whether a and b are equal; it is false if one of them has more than MaxSort nodes.
