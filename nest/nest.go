@@ -7,6 +7,14 @@ func All[T any](x T, parts func(T) []T, has func(T) bool) bool {
 	return visit(x, 1, parts, func(y T, level int) bool { return has(y) })
 }
 
+// Each calls do for x and all values in it, in the order of All.
+func Each[T any](x T, parts func(T) []T, do func(T)) {
+	All(x, parts, func(y T) bool {
+		do(y)
+		return true
+	})
+}
+
 // Size returns the nodes and the depth of x, or most + 1 and 0 if it has more than most nodes.
 func Size[T any](x T, parts func(T) []T, most int) (nodes, depth int) {
 	// The visit ends at the first node too many: a value whose parts are shared may have more nodes than can be counted.

@@ -61,6 +61,14 @@ func TestAllEndsWhereThePropertyFails(t *testing.T) {
 	}
 }
 
+func TestEach(t *testing.T) {
+	var names []string
+	Each(sample(), in, func(b box) { names = append(names, b.name) })
+	if !slices.Equal(names, []string{"a", "b", "c", "d", "e", "f", "g"}) {
+		t.Error(names)
+	}
+}
+
 func TestSize(t *testing.T) {
 	for _, x := range []struct {
 		name               string

@@ -4,6 +4,7 @@ import (
 	"slices"
 
 	"virgation/api"
+	"virgation/names"
 	"virgation/sorts"
 )
 
@@ -29,35 +30,13 @@ func areSorts(list []api.Sort, most int) bool {
 }
 
 func areSymbols(syms []api.Symbol) bool {
-	if len(syms) > api.MaxSyms {
-		return false
-	}
-	met := map[string]bool{}
-	for _, x := range syms {
-		if !isName(x.Name) || met[x.Name] || x.Rank < 0 || x.Rank > api.MaxRank {
-			return false
-		}
-		met[x.Name] = true
-	}
-	return true
+	return len(syms) <= api.MaxSyms && names.Different(syms, symbolName) && !slices.ContainsFunc(syms, wrongRank)
 }
 
-func isName(s string) bool {
-	if len(s) == 0 || len(s) > api.MaxName || !isLetter(s[0]) {
-		return false
-	}
-	for i := range len(s) {
-		if !isLetter(s[i]) && !isDigit(s[i]) && s[i] != '_' {
-			return false
-		}
-	}
-	return true
+func symbolName(x api.Symbol) string {
+	return x.Name
 }
 
-func isLetter(c byte) bool {
-	return 'a' <= c && c <= 'z'
-}
-
-func isDigit(c byte) bool {
-	return '0' <= c && c <= '9'
+func wrongRank(x api.Symbol) bool {
+	return x.Rank < 0 || x.Rank > api.MaxRank
 }
