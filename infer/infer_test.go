@@ -7,6 +7,7 @@ import (
 	"testing"
 
 	"virgation/api"
+	"virgation/sample"
 	"virgation/scheme"
 	"virgation/sorts"
 	"virgation/term"
@@ -423,7 +424,7 @@ func TestSchemesOfOtherSymbols(t *testing.T) {
 
 func TestSchemesNeedNoSorts(t *testing.T) {
 	fewer := 0
-	for _, s := range someSchemes(1000) {
+	for _, s := range sample.Schemes(1000) {
 		if e := scheme.Check(s); e != api.OK {
 			t.Fatal(schemeText(s), e)
 		}
@@ -471,7 +472,7 @@ func samples() [][]Loose {
 	for _, l := range rightLoose() {
 		list = append(list, l)
 	}
-	for _, s := range someSchemes(100) {
+	for _, s := range sample.Schemes(100) {
 		list = append(list, loosen(s))
 	}
 	return list

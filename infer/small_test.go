@@ -5,6 +5,7 @@ import (
 	"testing"
 
 	"virgation/api"
+	"virgation/sample"
 	"virgation/sorts"
 )
 
@@ -189,12 +190,12 @@ func TestSortsOfAllSmallFunctions(t *testing.T) {
 func TestSortsOfSomeFunctions(t *testing.T) {
 	s := newShelf()
 	small := s.upTo(4)
-	r := new(chance)
+	r := new(sample.Chance)
 	some := 0
 	for range 5000 {
-		l := of(is(1+r.below(2), c()), is(r.below(3), c()))
+		l := of(is(1+r.Below(2), c()), is(r.Below(3), c()))
 		for i, f := range l {
-			l[i].Body = r.loose(l, f.Params, 2)
+			l[i].Body = loose(r, l, f.Params, 2)
 		}
 		if s.hold(t, l, small) {
 			some++
@@ -206,23 +207,23 @@ func TestSortsOfSomeFunctions(t *testing.T) {
 }
 
 // loose makes a body of at most depth + 1 levels that may have no sort.
-func (r *chance) loose(l []Loose, params, depth int) api.Term {
+func loose(r *sample.Chance, l []Loose, params, depth int) api.Term {
 	var t api.Term
-	args := r.below(3)
-	if params > 0 && r.below(2) == 0 {
-		t = v(r.below(params))
-	} else if depth > 0 && r.below(3) > 0 {
-		n := 1 + r.below(len(l)-1)
+	args := r.Below(3)
+	if params > 0 && r.Below(2) == 0 {
+		t = v(r.Below(params))
+	} else if depth > 0 && r.Below(3) > 0 {
+		n := 1 + r.Below(len(l)-1)
 		t, args = fun(n), l[n].Params
 	} else {
-		n := r.below(3)
+		n := r.Below(3)
 		t, args = sym(n), 2-n
 	}
-	if depth == 0 || r.below(8) == 0 {
+	if depth == 0 || r.Below(8) == 0 {
 		args = 0
 	}
 	for range args {
-		t.Args = append(t.Args, r.loose(l, params, depth-1))
+		t.Args = append(t.Args, loose(r, l, params, depth-1))
 	}
 	return t
 }
