@@ -4,8 +4,8 @@ import (
 	"slices"
 
 	"virgation/api"
-	"virgation/names"
 	"virgation/sorts"
+	"virgation/symbol"
 )
 
 // Place gives terms a meaning: symbols, and the sorts of functions and of parameters.
@@ -17,7 +17,7 @@ type Place struct {
 
 // Check returns ErrArg if p is not a valid place, otherwise OK.
 func Check(p Place) api.Errno {
-	if !areSymbols(p.Syms) || !areSorts(p.Funs, api.MaxFuns) || !areSorts(p.Params, api.MaxArgs) {
+	if !symbol.Are(p.Syms) || !areSorts(p.Funs, api.MaxFuns) || !areSorts(p.Params, api.MaxArgs) {
 		return api.ErrArg
 	}
 	return api.OK
@@ -27,16 +27,4 @@ func areSorts(list []api.Sort, most int) bool {
 	return len(list) <= most && !slices.ContainsFunc(list, func(s api.Sort) bool {
 		return sorts.Check(s) != api.OK
 	})
-}
-
-func areSymbols(syms []api.Symbol) bool {
-	return len(syms) <= api.MaxSyms && names.Different(syms, symbolName) && !slices.ContainsFunc(syms, wrongRank)
-}
-
-func symbolName(x api.Symbol) string {
-	return x.Name
-}
-
-func wrongRank(x api.Symbol) bool {
-	return x.Rank < 0 || x.Rank > api.MaxRank
 }
